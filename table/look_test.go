@@ -52,7 +52,7 @@ func TestGetByHand(t *testing.T) {
 	w := words{
 		20:      2*100 + 2,                                       // digit 0: a node
 		100 + 1: 2*200 + 2, 100 + 3: 2*50 + 1, 50: third, 51: 33, // digit 1: a node, and the third key's leaf
-		200 + 2:  2*300 + 2,                                                                        // digit 2: a node
+		200 + 2:  2*300 + 2,                                                                         // digit 2: a node
 		300 + 10: 2*60 + 1, 60: first, 61: 11, 300 + 11: 2*70 + 1, 70: other, 71: 0, 300 + 12: 0xff, // digit 3
 		127: other, 128: 99,
 	}
